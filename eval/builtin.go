@@ -47,11 +47,7 @@ func push(l, v []api.Cell) ([]api.Cell, api.Errno) {
 	if l[0].Kind != api.List {
 		return nil, api.ErrType
 	}
-	items, err := value.Items(l)
-	if err != api.OK {
-		return nil, err
-	}
-	return value.List(append(items, v))
+	return list(l[0].N+1, l[1:], v)
 }
 
 func put(m, key, v []api.Cell) ([]api.Cell, api.Errno) {

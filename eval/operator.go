@@ -1,6 +1,8 @@
 package eval
 
 import (
+	"slices"
+
 	"faas/api"
 	"faas/num"
 	"faas/value"
@@ -67,17 +69,14 @@ func arithmetic(op string, a, b int) (int, api.Errno) {
 	return rest, err
 }
 
-// join returns the list of the elements of two lists.
-func join(a, b []api.Cell) ([]api.Cell, api.Errno) {
-	front, err := value.Items(a)
-	if err != api.OK {
+// list returns the list of n elements that have these cells. It is put together from cells, as lists grow in loops.
+func list(n int, elements ...[]api.Cell) ([]api.Cell, api.Errno) {
+	v := []api.Cell{{Kind: api.List, N: n}}
+	v = append(v, slices.Concat(elements...)...)
+	if err := value.Check(v); err != api.OK {
 		return nil, err
 	}
-	back, err := value.Items(b)
-	if err != api.OK {
-		return nil, err
-	}
-	return value.List(append(front, back...))
+	return v, api.OK
 }
 
 // element returns the element of a list at the place i.
